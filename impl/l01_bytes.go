@@ -47,20 +47,20 @@ const (
 	maxCrc       = 1<<32 - 1
 )
 
-// bytesFault is why bytes can not be read.
-type bytesFault struct {
+// fault is why something can not be read.
+type fault struct {
 	code int64
 }
 
-func (f bytesFault) Error() string {
-	return "bytes: code " + strconv.FormatInt(f.code, 10)
+func (f fault) Error() string {
+	return "code " + strconv.FormatInt(f.code, 10)
 }
 
-// bytesCode is the code of what went wrong, OK if nothing did.
-func bytesCode(err error) int64 {
-	var fault bytesFault
-	if errors.As(err, &fault) {
-		return fault.code
+// codeOf is the code of what went wrong, OK if nothing did.
+func codeOf(err error) int64 {
+	var f fault
+	if errors.As(err, &f) {
+		return f.code
 	}
 	return OK
 }
@@ -86,16 +86,16 @@ func GetNum(text string, at int64) NumOut {
 		return NumOut{Code: ErrSize}
 	}
 	n, behind, err := readNum(text, at)
-	return NumOut{N: n, At: behind, Code: bytesCode(err)}
+	return NumOut{N: n, At: behind, Code: codeOf(err)}
 }
 
 // readNum tells the number at a place, and the place behind it.
 func readNum(text string, at int64) (int64, int64, error) {
 	if at < 0 {
-		return 0, 0, bytesFault{ErrForm}
+		return 0, 0, fault{ErrForm}
 	}
 	if at > int64(len(text)) {
-		return 0, 0, bytesFault{ErrShort}
+		return 0, 0, fault{ErrShort}
 	}
 	u, size, err := readBits(text[at:])
 	if err != nil {
@@ -137,7 +137,7 @@ last:
 	return u, int64(size), nil
 
 wrong:
-	return 0, 0, bytesFault{code}
+	return 0, 0, fault{code}
 }
 
 // PutText writes the length of t, and t.
@@ -154,7 +154,7 @@ func GetText(text string, at int64) TextOut {
 		return TextOut{Code: ErrSize}
 	}
 	t, behind, err := readText(text, at)
-	return TextOut{Text: t, At: behind, Code: bytesCode(err)}
+	return TextOut{Text: t, At: behind, Code: codeOf(err)}
 }
 
 // readText tells the text at a place, and the place behind it.
@@ -164,10 +164,10 @@ func readText(text string, at int64) (string, int64, error) {
 		return "", 0, err
 	}
 	if size < 0 || size > MaxBytes {
-		return "", 0, bytesFault{ErrSyntax}
+		return "", 0, fault{ErrSyntax}
 	}
 	if size > int64(len(text))-start {
-		return "", 0, bytesFault{ErrShort}
+		return "", 0, fault{ErrShort}
 	}
 	return strings.Clone(text[start : start+size]), start + size, nil
 }
