@@ -543,12 +543,12 @@ func TestThrownDocsComeBack(t *testing.T) {
 	}
 }
 
-// turned are texts that differ from this one by a byte less, more, or another one.
-func turned(text string) []string {
+// turned are texts that differ from this one by a byte less, or by one of these more, or in place of another one.
+func turned(text string, by string) []string {
 	var all []string
 	for at := range len(text) {
 		all = append(all, text[:at]+text[at+1:], text[:at], text[at:])
-		for _, b := range " {}().:aonAZ019\n" {
+		for _, b := range by {
 			all = append(all, text[:at]+string(b)+text[at:], text[:at]+string(b)+text[at+1:])
 		}
 	}
@@ -610,7 +610,7 @@ func TestWhatIsReadIsTheTextOfWhatItReads(t *testing.T) {
 	}
 	read := 0
 	for _, text := range texts {
-		for _, other := range turned(text) {
+		for _, other := range turned(text, " {}().:aonAZ019\n") {
 			got := impl.DocRead(other)
 			if mayBeText(other) != (got.Code == impl.OK) {
 				t.Errorf("DocRead(%q) is %+v", other, got)
