@@ -639,6 +639,11 @@ func copied(all []impl.Sel) []impl.Sel {
 	return other
 }
 
+// behind are the same Sels, with something behind their end too: nothing may be put there.
+func behind(all []impl.Sel) []impl.Sel {
+	return append(all, spread("behind"), spread("behind"))[:len(all)]
+}
+
 func copiedDoc(d impl.Doc) impl.Doc {
 	other := impl.Doc{Sels: copied(d.Sels), Frags: slices.Clone(d.Frags)}
 	for i := range other.Frags {
@@ -647,12 +652,12 @@ func copiedDoc(d impl.Doc) impl.Doc {
 	return other
 }
 
-// lists are all lists of Sels, with the memory that stands behind their ends.
-func lists(d impl.Doc) [][]impl.Sel {
+// innerLists are all lists of Sels, within others too.
+func innerLists(d impl.Doc) [][]impl.Sel {
 	var all [][]impl.Sel
 	var add func(one []impl.Sel)
 	add = func(one []impl.Sel) {
-		all = append(all, one[:cap(one)])
+		all = append(all, one)
 		for _, s := range one {
 			add(s.Sels)
 		}
@@ -662,6 +667,24 @@ func lists(d impl.Doc) [][]impl.Sel {
 		add(f.Sels)
 	}
 	return all
+}
+
+// lists are these, with the memory that stands behind their ends.
+func lists(d impl.Doc) [][]impl.Sel {
+	all := innerLists(d)
+	for at, one := range all {
+		all[at] = one[:cap(one)]
+	}
+	return all
+}
+
+// copiedLists share no memory with these.
+func copiedLists(all [][]impl.Sel) [][]impl.Sel {
+	other := slices.Clone(all)
+	for i := range other {
+		other[i] = copied(other[i])
+	}
+	return other
 }
 
 func TestDocReadListsShareNothing(t *testing.T) {
@@ -713,13 +736,12 @@ func TestDocsHandedInAreNotChanged(t *testing.T) {
 		if i%2 == 1 {
 			made.Sels[0].Name = "on"
 		}
-		// Behind the ends stands something too: nothing may be put there.
-		made.Sels = append(made.Sels, spread("behind"), spread("behind"))[:len(made.Sels)]
-		before, behind := copiedDoc(made), copied(made.Sels[:cap(made.Sels)])
+		made.Sels = behind(made.Sels)
+		before, all := copiedDoc(made), copied(made.Sels[:cap(made.Sels)])
 		impl.DocRight(made)
 		impl.CountOf(made)
 		impl.DocText(made)
-		if !reflect.DeepEqual(before, made) || !reflect.DeepEqual(behind, made.Sels[:cap(made.Sels)]) {
+		if !reflect.DeepEqual(before, made) || !reflect.DeepEqual(all, made.Sels[:cap(made.Sels)]) {
 			t.Errorf("%s was changed", docWords(before))
 		}
 	}

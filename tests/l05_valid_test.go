@@ -903,17 +903,12 @@ func TestWhatIsAskedIsNotChanged(t *testing.T) {
 		s := apart()
 		a := asker{dice: &d, s: s, odd: []int{8, 40, 100000}[i%3]}
 		made := a.doc()
-		// Behind the ends stands something too: nothing may be put there.
-		behind := func(all []impl.Sel) []impl.Sel { return append(all, spread("behind"), spread("behind"))[:len(all)] }
 		made.Sels = behind(made.Sels)
 		made.Sels[0].Sels = behind(made.Sels[0].Sels)
 		for i := range made.Frags {
 			made.Frags[i].Sels = behind(made.Frags[i].Sels)
 		}
-		var before [][]impl.Sel
-		for _, list := range lists(made) {
-			before = append(before, copied(list))
-		}
+		before := copiedLists(lists(made))
 		types, whole := copiedSchema(s), copiedDoc(made)
 		impl.Validate(s, made)
 		impl.Loops(made)

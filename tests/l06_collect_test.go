@@ -3,6 +3,7 @@ package tests
 import (
 	"fmt"
 	"reflect"
+	"regexp"
 	"slices"
 	"strings"
 	"testing"
@@ -48,11 +49,30 @@ func openFor(s impl.Schema, d impl.Doc, all []impl.Sel, t string) []impl.Sel {
 	return open
 }
 
-// groupsOf looks for each field through all others, apart from the program. It asks not whether d is let by.
+// rightSel is what a right Sel is, by its Kind, Key, Name, First, and whether there are Sels.
+var rightSel = regexp.MustCompile(`^(1 "[a-z]{1,8}" "[a-z]{1,8}" (-1|[0-9]{1,2}|100) (true|false)|2 "" "[A-Z]{1,8}" -1 true|3 "" "[a-z]{1,8}" -1 false)$`)
+
+// mayBeSels tells by patterns, apart from the program, whether these are right, and those in them.
+func mayBeSels(all []impl.Sel) bool {
+	for _, sel := range all {
+		head := fmt.Sprintf("%d %q %q %d %t", sel.Kind, sel.Key, sel.Name, sel.First, len(sel.Sels) > 0)
+		if !rightSel.MatchString(head) || strings.Contains(head, `"on"`) || strings.Contains(head, `"fragment"`) || !mayBeSels(sel.Sels) {
+			return false
+		}
+	}
+	return true
+}
+
+// groupsOf are the Groups of Sels that may be collected, none of others, apart from the program. It asks not whether d is let by.
 func groupsOf(s impl.Schema, d impl.Doc, l []impl.Sel, t string) []impl.Group {
-	if countSels(l) > impl.MaxSels || firstType(s, t).Kind != impl.KdObj {
+	if countSels(l) > impl.MaxSels || !mayBeSels(l) || firstType(s, t).Kind != impl.KdObj {
 		return nil
 	}
+	return groupsIn(s, d, l, t)
+}
+
+// groupsIn looks for each field through all others.
+func groupsIn(s impl.Schema, d impl.Doc, l []impl.Sel, t string) []impl.Group {
 	open := openFor(s, d, l, t)
 	var groups []impl.Group
 	for i, sel := range open {
@@ -188,7 +208,7 @@ func TestCollectOfEachTwoTypes(t *testing.T) {
 	s := asks(t, things)
 	mayBe := map[string][]string{"Q": {"Q"}, "USER": {"USER"}, "POST": {"POST"}, "ANY": {"USER", "POST"}, "SOLO": {"Q"}, "STR": nil, "NO": nil, "": nil}
 	bottom := func(of string) []impl.Sel {
-		if firstType(s, of).Kind == impl.KdObj {
+		if firstType(s, of).Kind != impl.KdOne {
 			return fieldsOf("id")
 		}
 		var ons []impl.Sel
@@ -212,7 +232,7 @@ func TestCollectOfEachTwoTypes(t *testing.T) {
 	}
 	for outer := range mayBe {
 		for inner := range mayBe {
-			// What is collected need not be right, what is let by has to be.
+			// What is collected need not be let by, but what it is asked with has to be.
 			check(question(t, "{ id }"), sels(on(outer, on(inner, bottom(inner)...))), outer, inner)
 			if len(mayBe[inner]) == 0 {
 				continue
@@ -257,15 +277,14 @@ func TestCollectOfOtherSels(t *testing.T) {
 		{"USER", sels(spread("f"), spread("g"), spread("h")), "name k:id"},
 		{"POST", sels(spread("f"), spread("g"), spread("h")), "l:id"},
 		{"Q", sels(spread("none"), field("id"), spread("none")), "id"},
-		{"Q", sels(spread("Q"), spread(""), field("id")), "id"},
 		{"Q", sels(keyed("user", "self", 5, inner...), spread("f")), "user:self(5) { x y id } id"},
 		{"Q", sels(spread("f"), keyed("user", "self", 5, inner...)), "id user { id x y }"},
 		// Neither the fields, nor where they stand, are those of the type.
 		{"Q", fieldsOf("zz", "name", "id"), "zz name id"},
 		{"POST", fieldsOf("zz", "nil", "id"), "zz nil id"},
 		{"Q", sels(field("id", inner...), field("user")), "id { x y } user"},
-		{"Q", sels(keyed("a", "b", -7), keyed("b", "a", 1000)), "a:b(-7) b:a(1000)"},
-		{"Q", sels(keyed("", "b", 0), keyed("A B", "", 1), keyed("", "c", 5)), ":b(0) A B:(1)"},
+		{"Q", sels(keyed("a", "b", 0), keyed("b", "a", 100)), "a:b(0) b:a(100)"},
+		{"Q", sels(keyed("o", "n", 0), keyed("abcdefgh", "ijklmnop", 1), keyed("o", "zz", 5)), "o:n(0) abcdefgh:ijklmnop(1)"},
 		// The Name and First are those of the first one.
 		{"Q", sels(keyed("k", "a", 1, inner...), keyed("k", "b", 2), keyed("k", "c", 3, inner[1:]...)), "k:a(1) { x y y }"},
 		{"Q", sels(on("Q", keyed("k", "a", -1)), keyed("k", "b", 2, inner...)), "k:a { x y }"},
@@ -274,14 +293,12 @@ func TestCollectOfOtherSels(t *testing.T) {
 		{"Q", sels(field("a", inner...), impl.Sel{Kind: impl.SlField, Key: "a", Name: "a", First: -1, Sels: []impl.Sel{}}), "a { x y }"},
 		{"Q", sels(field("a"), field("b"), field("a"), field("b", inner...)), "a b { x y }"},
 		// What stands in a field is told as it is.
-		{"Q", sels(field("a", spread("f"), spread("none"), on("NO"), on("USER", inner...), impl.Sel{})), "a { ...f ...none ...on NO ...on USER { x y } (0) }"},
+		{"Q", sels(field("a", spread("f"), spread("none"), on("NO", inner...), on("USER", inner...), keyed("b", "c", 100))), "a { ...f ...none ...on NO { x y } ...on USER { x y } b:c(100) }"},
 		{"Q", sels(on("SOLO", field("a"), on("Q", field("b")), on("ANY", field("c"), on("Q", field("d"))))), "a b"},
-		{"Q", sels(on("STR", field("a")), on("NO", field("a")), on("", field("a")), on("q", field("a")), on("Q")), ""},
-		// Of the four fields of a Sel only those that its Kind has count.
-		{"Q", sels(impl.Sel{Kind: impl.SlOn, Key: "k", Name: "Q", First: 3, Sels: inner}), "x y"},
-		{"Q", sels(impl.Sel{Kind: impl.SlSpread, Key: "k", Name: "f", First: 3, Sels: inner}), "id user { id }"},
-		{"Q", sels(impl.Sel{Kind: impl.SlSpread, Key: "k", Name: "g", First: 3, Sels: inner}), ""},
-		{"Q", sels(impl.Sel{Key: "k", Name: "Q", Sels: inner}, impl.Sel{Kind: 4, Key: "k", Name: "Q", Sels: inner}, impl.Sel{Kind: -1, Key: "k", Name: "f", Sels: inner}), ""},
+		{"Q", sels(on("STR", field("a")), on("NO", field("a")), on("STR", on("Q", field("a")))), ""},
+		// How deep Sels may stand is said of a Doc, not of these.
+		{"Q", nestedIn(6, field("z"), func(inner ...impl.Sel) impl.Sel { return field("a", inner...) }), "a { a { a { a { a { a { z } } } } } }"},
+		{"Q", nestedIn(6, field("z"), func(inner ...impl.Sel) impl.Sel { return on("Q", inner...) }), "z"},
 	}
 	for _, c := range cases {
 		if got := groupWords(checkGroups(t, "other Sels", s, d, c.l, c.of)); got != c.want {
@@ -290,19 +307,64 @@ func TestCollectOfOtherSels(t *testing.T) {
 	}
 }
 
+// around are lists that have this Sel somewhere, beside such that are right, within each that may have Sels, and in what is not laid open.
+func around(sel impl.Sel) map[string][]impl.Sel {
+	return map[string][]impl.Sel{
+		"alone":               sels(sel),
+		"twice":               sels(sel, sel),
+		"behind one":          sels(field("id"), sel),
+		"ahead of one":        sels(sel, field("id")),
+		"between spreads":     sels(spread("f"), sel, spread("f")),
+		"in a field":          sels(field("id"), field("user", sel)),
+		"last in a field":     sels(field("user", field("id"), field("name"), sel), field("id")),
+		"in one of two":       sels(field("user", field("id")), field("user", sel)),
+		"in a field of none":  sels(field("id"), field("zz", sel)),
+		"in an on that fits":  sels(on("Q", field("id"), sel)),
+		"in an on that not":   sels(field("id"), on("USER", sel)),
+		"in an on of no type": sels(field("id"), on("NO", field("id"), sel)),
+		"in an on of a leaf":  sels(field("id"), on("STR", sel)),
+		"in two ons":          sels(on("SOLO", on("Q", sel), field("id"))),
+		"deep":                sels(field("id"), field("a", field("b", on("Q", field("c", field("d", field("e", field("g", sel)))))))),
+		"as the last of many": append(fields(40), sel),
+	}
+}
+
 func TestCollectOfSelsThatAreNotRight(t *testing.T) {
 	s := asks(t, things)
 	for _, d := range []impl.Doc{question(t, "{ id }"), question(t, "{ ...f } fragment f on Q { user { ...g } } fragment g on USER { id }")} {
+		for where, l := range around(field("k", field("id"), on("USER", field("id")), spread("f"))) {
+			if len(checkGroups(t, where, s, d, l, "Q")) == 0 {
+				t.Errorf("what is right is not told %s", where)
+			}
+		}
 		for what, wrong := range wrongSels() {
-			for _, l := range [][]impl.Sel{
-				sels(wrong), sels(wrong, wrong), sels(field("a", wrong), field("a", wrong)), sels(field("a"), wrong, field("a")), sels(wrong, spread("f"), wrong),
-				sels(on("Q", wrong)), sels(on("SOLO", on("Q", wrong), wrong)), sels(on("USER", wrong), wrong), sels(on("T", wrong)), sels(on("ANY", wrong), wrong),
-			} {
+			for where, l := range around(wrong) {
 				for _, of := range append(asked(s), "T") {
-					checkGroups(t, what, s, d, l, of)
+					checkNoGroups(t, what+", "+where, s, d, l, of)
 				}
 			}
 		}
+	}
+}
+
+// One that is not right is enough, whether it would be told or not.
+func TestCollectOfOneSelThatIsNotRight(t *testing.T) {
+	s := asks(t, "obj Q id:STR\nleaf STR 3\n")
+	d := question(t, "{ id }")
+	id := field("id")
+	if got := groupWords(checkGroups(t, "id", s, d, sels(id), "Q")); got != "id" {
+		t.Errorf("Collect of id is %q", got)
+	}
+	for what, l := range map[string][]impl.Sel{
+		"another Kind":      sels(id, impl.Sel{Kind: 7}),
+		"a Key of no word":  sels(keyed("A", "id", -1)),
+		"a First above 100": sels(keyed("a", "id", 101)),
+		"an on of no Sels":  sels(id, on("Q")),
+	} {
+		checkNoGroups(t, what, s, d, l, "Q")
+		checkNoGroups(t, what+", in a field", s, d, sels(id, field("a", l...)), "Q")
+		checkNoGroups(t, what+", in an on", s, d, sels(id, on("Q", l...)), "Q")
+		checkNoGroups(t, what+", in an on that fits not", s, d, sels(id, on("STR", l...)), "Q")
 	}
 }
 
@@ -315,32 +377,31 @@ func lineOf(deep int, make func(inner ...impl.Sel) impl.Sel) []impl.Sel {
 	return all
 }
 
+// nestedIn is what stands at the bottom, in so many others.
+func nestedIn(deep int, bottom impl.Sel, make func(inner ...impl.Sel) impl.Sel) []impl.Sel {
+	for range deep {
+		bottom = make(bottom)
+	}
+	return sels(bottom)
+}
+
 // shapes are lists of so many Sels in all.
 func shapes(count int) map[string][]impl.Sel {
-	other := func(kind int64) func(inner ...impl.Sel) impl.Sel {
-		return func(inner ...impl.Sel) impl.Sel {
-			return impl.Sel{Kind: kind, Key: "in", Name: "in", First: -1, Sels: inner}
-		}
-	}
 	first := func(last []impl.Sel) []impl.Sel { return append(fields(1), last...) }
 	return map[string][]impl.Sel{
-		"side by side":            fields(count),
-		"of one Key":              repeated(count, func(int) impl.Sel { return field("a") }),
-		"in one field":            sels(field("a", fields(count-1)...)),
-		"in the last field":       append(fields(20), field("z", fields(count-21)...)),
-		"in the first field":      append(sels(field("z", fields(count-21)...)), fields(20)...),
-		"in fields of two":        repeated(count/2, func(int) impl.Sel { return field("a", field("b")) }),
-		"one in each field":       lineOf(count, func(inner ...impl.Sel) impl.Sel { return field("in", inner...) }),
-		"one in each on":          append(lineOf(count-1, func(inner ...impl.Sel) impl.Sel { return on("Q", inner...) }), field("a")),
-		"in an on that is not":    first(sels(on("NO", fields(count-2)...))),
-		"in an on that fits":      sels(on("Q", fields(count-1)...)),
-		"in spreads":              first(lineOf(count-1, other(impl.SlSpread))),
-		"in what is none":         first(lineOf(count-1, other(0))),
-		"in what is none, 2 deep": first(sels(other(99)(field("b", fields(count-3)...)))),
-		"spreads":                 first(repeated(count-1, func(int) impl.Sel { return spread("f") })),
-		"spreads of none":         first(repeated(count-1, func(int) impl.Sel { return spread("none") })),
-		"the zero Sel":            first(make([]impl.Sel, count-1)),
-		"10 of 6":                 append(repeated((count-1)/6, func(int) impl.Sel { return field("a", fields(5)...) }), fields(count-(count-1)/6*6)...),
+		"side by side":         fields(count),
+		"of one Key":           repeated(count, func(int) impl.Sel { return field("a") }),
+		"in one field":         sels(field("a", fields(count-1)...)),
+		"in the last field":    append(fields(20), field("z", fields(count-21)...)),
+		"in the first field":   append(sels(field("z", fields(count-21)...)), fields(20)...),
+		"in fields of two":     repeated(count/2, func(int) impl.Sel { return field("a", field("b")) }),
+		"one in each field":    lineOf(count, func(inner ...impl.Sel) impl.Sel { return field("in", inner...) }),
+		"one in each on":       nestedIn(count-1, field("a"), func(inner ...impl.Sel) impl.Sel { return on("Q", inner...) }),
+		"in an on that is not": first(sels(on("NO", fields(count-2)...))),
+		"in an on that fits":   sels(on("Q", fields(count-1)...)),
+		"spreads":              first(repeated(count-1, func(int) impl.Sel { return spread("f") })),
+		"spreads of none":      first(repeated(count-1, func(int) impl.Sel { return spread("none") })),
+		"10 of 6":              append(repeated((count-1)/6, func(int) impl.Sel { return field("a", fields(5)...) }), fields(count-(count-1)/6*6)...),
 	}
 }
 
@@ -357,11 +418,11 @@ func TestCollectOfAsManySelsAsMayBe(t *testing.T) {
 				t.Errorf("%s: of %d Sels Collect is %q", what, count, groupWords(got))
 			}
 			// One more, at the end.
-			more := append(l, impl.Sel{})
+			more := append(l, spread("none"))
 			if got := checkGroups(t, what, s, d, more, "Q"); (len(got) > 0) != (count < impl.MaxSels) {
 				t.Errorf("%s: of %d Sels Collect is %q", what, count+1, groupWords(got))
 			}
-			more = append(sels(on("NO")), l...)
+			more = append(sels(spread("none")), l...)
 			if got := checkGroups(t, what, s, d, more, "Q"); (len(got) > 0) != (count < impl.MaxSels) {
 				t.Errorf("%s: of %d Sels Collect is %q", what, count+1, groupWords(got))
 			}
@@ -440,6 +501,22 @@ func notLetBy(t *testing.T) []impl.Doc {
 	return all
 }
 
+// notRightDocs are not right, each in one way.
+func notRightDocs() map[string]impl.Doc {
+	id := field("id")
+	all := map[string]impl.Doc{
+		"the zero Doc": {}, "no Sels": doc(nil, frag("f", "Q", id)), "one Frag more": doc(sels(id), frags(impl.MaxFrags+1)...), "two of one Name": doc(sels(id), frag("f", "Q", id), frag("f", "Q", id)),
+		"one Sel more": doc(repeated(impl.MaxSels+1, func(int) impl.Sel { return id })),
+		"one deeper":   doc(nestedIn(impl.MaxDeep, id, func(inner ...impl.Sel) impl.Sel { return on("Q", inner...) })),
+	}
+	for what, wrong := range wrongSels() {
+		all[what] = doc(sels(id, wrong))
+		all[what+", in a Frag"] = doc(sels(id), frag("f", "Q", wrong))
+		all[what+", in a field"] = doc(sels(field("user", id, wrong)))
+	}
+	return all
+}
+
 func TestCollectOfWhatIsNotLetBy(t *testing.T) {
 	s := asks(t, things)
 	right := question(t, "{ id user { id } ...on USER { name } }")
@@ -456,51 +533,53 @@ func TestCollectOfWhatIsNotLetBy(t *testing.T) {
 		}
 		checkNoWants(t, docWords(d), s, d)
 	}
-	for what, wrong := range wrongSels() {
-		for _, d := range []impl.Doc{doc(sels(field("id"), wrong)), doc(fieldsOf("id"), frag("f", "Q", wrong)), doc(sels(field("user", field("id"), wrong)))} {
-			checkNoGroups(t, what, s, d, right.Sels, "Q")
-			checkNoGroups(t, what, s, d, d.Sels, "Q")
-			checkNoWants(t, what, s, d)
-		}
-	}
-	id := field("id")
-	for what, d := range map[string]impl.Doc{
-		"the zero Doc": {}, "no Sels": doc(nil, frag("f", "Q", id)), "one Frag more": doc(sels(id), frags(impl.MaxFrags+1)...), "two of one Name": doc(sels(id), frag("f", "Q", id), frag("f", "Q", id)),
-		"one Sel more": doc(repeated(impl.MaxSels+1, func(int) impl.Sel { return id })), "one deeper": doc(append(lineOf(6, func(inner ...impl.Sel) impl.Sel { return on("Q", inner...) }), on("Q", on("Q", on("Q", on("Q", on("Q", on("Q", id)))))))),
-	} {
+	for what, d := range notRightDocs() {
 		checkNoGroups(t, what, s, d, right.Sels, "Q")
+		checkNoGroups(t, what, s, d, d.Sels, "Q")
 		checkNoWants(t, what, s, d)
 	}
 }
 
+// smallSchema is right, and lets by a question for x.
+func smallSchema() impl.Schema {
+	return schema(objType("Q", plain("x", "S")), leafType("S", 5))
+}
+
+// notRightSchemas are not right, each in one way.
+func notRightSchemas() map[string]impl.Schema {
+	types := smallSchema().Types
+	all := map[string]impl.Schema{
+		"the zero Schema":         {},
+		"a leaf as the root":      schema(types[1], types[0]),
+		"a one as the root":       schema(oneType("U", "Q"), types[0], types[1]),
+		"13 types":                schema(append(slices.Clone(types), objTypes(11)...)...),
+		"more types than MaxList": schema(append(slices.Clone(types), objTypes(impl.MaxList)...)...),
+	}
+	for what, f := range wrongFields() {
+		all["a field, "+what] = schema(append(slices.Clone(types), objType("R", f))...)
+	}
+	for what, of := range hiddenTypes() {
+		all["hidden, "+what] = schema(append(slices.Clone(types), of)...)
+	}
+	for what, of := range wrongTypes() {
+		for at, s := range withType(of) {
+			all[fmt.Sprint("type ", at, ", ", what)] = s
+		}
+	}
+	return all
+}
+
 func TestCollectOfASchemaThatIsNotRight(t *testing.T) {
 	d := doc(fieldsOf("x"))
-	check := func(what string, s impl.Schema) {
-		t.Helper()
+	right := smallSchema()
+	if len(impl.Collect(right, d, d.Sels, "Q")) != 1 || len(impl.Wants(right, d)) != 1 {
+		t.Fatal("what is right is not told")
+	}
+	for what, s := range notRightSchemas() {
 		for _, of := range []string{"Q", "T", "R", "S", ""} {
 			checkNoGroups(t, what, s, d, d.Sels, of)
 		}
 		checkNoWants(t, what, s, d)
-	}
-	right := schema(objType("Q", plain("x", "S")), leafType("S", 5))
-	if len(impl.Collect(right, d, d.Sels, "Q")) != 1 || len(impl.Wants(right, d)) != 1 {
-		t.Fatal("what is right is not told")
-	}
-	check("the zero Schema", impl.Schema{})
-	check("a leaf as the root", schema(right.Types[1], right.Types[0]))
-	check("a one as the root", schema(oneType("U", "Q"), right.Types[0], right.Types[1]))
-	check("13 types", schema(append(slices.Clone(right.Types), objTypes(11)...)...))
-	check("more types than MaxList", schema(append(slices.Clone(right.Types), objTypes(impl.MaxList)...)...))
-	for what, f := range wrongFields() {
-		check(what, schema(append(slices.Clone(right.Types), objType("R", f))...))
-	}
-	for what, of := range hiddenTypes() {
-		check(what, schema(append(slices.Clone(right.Types), of)...))
-	}
-	for what, of := range wrongTypes() {
-		for _, s := range withType(of) {
-			check(what, s)
-		}
 	}
 }
 
@@ -551,7 +630,7 @@ func checkWanted(t *testing.T, s impl.Schema, d impl.Doc) int {
 		t.Errorf("Wants of %s is %q, want %q", docWords(d), got, keys)
 	}
 	for _, of := range s.Types {
-		for _, list := range lists(d) {
+		for _, list := range innerLists(d) {
 			checkGroups(t, "wanted", s, d, list, of.Name)
 		}
 	}
@@ -669,18 +748,23 @@ func TestWhatIsSpreadMostOftenIsCollectedInTime(t *testing.T) {
 	}
 }
 
-// Each Frag spreads all those behind it, as often as there is room.
+// eachOther has Frags each of which spreads all those behind it, as often as there is room; the last one has this.
+func eachOther(last ...impl.Sel) impl.Doc {
+	names := letters(impl.MaxFrags)
+	made := doc(repeated(12, func(at int) impl.Sel { return spread(names[at%5]) }))
+	for at := range impl.MaxFrags - 1 {
+		made.Frags = append(made.Frags, frag(names[at], "T", repeated(11, func(i int) impl.Sel { return spread(names[at+1+i%(4-at)]) })...))
+	}
+	made.Frags = append(made.Frags, frag(names[4], "T", last...))
+	return made
+}
+
 func TestFragsThatSpreadEachOtherAreCollectedInTime(t *testing.T) {
 	s := schema(objType("T", plain("in", "T"), plain("l", "S")), leafType("S", 5))
-	names := letters(impl.MaxFrags)
 	for _, last := range [][]impl.Sel{sels(field("l")), sels(field("in", field("l")))} {
-		d := doc(repeated(12, func(at int) impl.Sel { return spread(names[at%5]) }))
-		// The last one is reached from each one of these in so many ways.
+		d := eachOther(last...)
+		// The last Frag is reached from each one of these in so many ways.
 		ways := []int{0, 0, 0, 0, 1}
-		for at := range impl.MaxFrags - 1 {
-			d.Frags = append(d.Frags, frag(names[at], "T", repeated(11, func(i int) impl.Sel { return spread(names[at+1+i%(4-at)]) })...))
-		}
-		d.Frags = append(d.Frags, frag(names[4], "T", last...))
 		for at := 3; at >= 0; at-- {
 			for i := range 11 {
 				ways[at] += ways[at+1+i%(4-at)]
@@ -916,8 +1000,6 @@ func TestWhatIsCollectedIsNotChanged(t *testing.T) {
 		s := apart()
 		a := asker{dice: &d, s: s, odd: []int{40, 100000}[i%2]}
 		made, other := a.doc(), a.doc()
-		// Behind the ends stands something too: nothing may be put there.
-		behind := func(all []impl.Sel) []impl.Sel { return append(all, spread("behind"), spread("behind"))[:len(all)] }
 		made.Sels, other.Sels = behind(made.Sels), behind(other.Sels)
 		for i := range made.Frags {
 			made.Frags[i].Sels = behind(made.Frags[i].Sels)
@@ -926,10 +1008,7 @@ func TestWhatIsCollectedIsNotChanged(t *testing.T) {
 			other.Sels[i].Sels = behind(other.Sels[i].Sels)
 		}
 		all := func() [][]impl.Sel { return append(lists(made), lists(other)...) }
-		var before [][]impl.Sel
-		for _, list := range all() {
-			before = append(before, copied(list))
-		}
+		before := copiedLists(all())
 		types, whole := copiedSchema(s), copiedDoc(made)
 		for _, of := range s.Types {
 			impl.Collect(s, made, made.Sels, of.Name)
