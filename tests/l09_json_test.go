@@ -887,36 +887,9 @@ func manyLists() string {
 	return `[` + one + `,` + one + `,[` + one + `,{"x":` + one + `,"y":[` + one + `,null]}]]`
 }
 
-// What is told is overwritten here, list by list: no other one, nor what is told another time, may show it.
 func TestWhatIsReadOfATextSharesNothing(t *testing.T) {
 	text := manyLists()
-	first := impl.JsonRead(text).Node
-	keys, _ := treeLists(first)
-	if len(keys) < 80 {
-		t.Fatalf("only %d lists: too few to tell", len(keys))
-	}
-	for at := range keys {
-		keys, kids := treeLists(impl.JsonRead(text).Node)
-		for i := range keys[at] {
-			keys[at][i] = "TURNED"
-		}
-		for other, list := range keys {
-			if other != at && slices.Contains(list, "TURNED") {
-				t.Errorf("Keys %d and %d share memory", at, other)
-			}
-		}
-		for i := range kids[at] {
-			kids[at][i].Kind = -7
-		}
-		for other, list := range kids {
-			if other != at && slices.ContainsFunc(list, func(n impl.Node) bool { return n.Kind == -7 }) {
-				t.Errorf("Kids %d and %d share memory", at, other)
-			}
-		}
-		if got := impl.Json(first); got != text {
-			t.Fatalf("what was read came to be %q", got)
-		}
-	}
+	checkListsApart(t, func() impl.Node { return impl.JsonRead(text).Node })
 	checkJson(t, "read again", text)
 }
 
