@@ -507,9 +507,10 @@ func TestSchemaNotRightByAType(t *testing.T) {
 	}
 }
 
-func TestSchemaNotRightAtTheLimits(t *testing.T) {
+// wrongSchemas are not right, each by how many of something there are, or by what it has where.
+func wrongSchemas() map[string]impl.Schema {
 	id, names := plain("id", "WAA"), typeNames(12)
-	cases := map[string]impl.Schema{
+	return map[string]impl.Schema{
 		"the zero Schema":         {},
 		"no types":                {Types: []impl.Type{}},
 		"13 types":                schema(objTypes(13)...),
@@ -533,7 +534,10 @@ func TestSchemaNotRightAtTheLimits(t *testing.T) {
 		"a member wrong in the 5": schema(append(objTypes(8), oneType("ONE", "WAA", "WAB", "WAC", "WAD", "WAA"))...),
 		"a member there is not":   schema(append(objTypes(8), oneType("ONE", "WAA", "WAB", "WAC", "WAD", "WAI"))...),
 	}
-	for what, s := range cases {
+}
+
+func TestSchemaNotRightAtTheLimits(t *testing.T) {
+	for what, s := range wrongSchemas() {
 		checkNotThere(t, what, s)
 		checkNoSchema(t, schemaWords(s), syntaxOrSize(schemaWords(s)))
 	}

@@ -866,8 +866,10 @@ func TestNoMoreIsToldThanIsReckoned(t *testing.T) {
 	}
 }
 
-func TestWhatIsReckonedIsNotChanged(t *testing.T) {
-	d := dice(16)
+// checkNotChangedBy throws questions, with more behind the ends of their lists: a call must not change them, nor what there is.
+func checkNotChangedBy(t *testing.T, seed uint64, call func(s impl.Schema, d impl.Doc)) {
+	t.Helper()
+	d := dice(seed)
 	for i := range 300 {
 		s := apart()
 		a := asker{dice: &d, s: s, odd: []int{40, 100000}[i%2]}
@@ -881,11 +883,15 @@ func TestWhatIsReckonedIsNotChanged(t *testing.T) {
 		}
 		before := copiedLists(lists(made))
 		types, whole := copiedSchema(s), copiedDoc(made)
-		impl.BoundOf(s, made)
+		call(s, made)
 		if !reflect.DeepEqual(types, copiedSchema(s)) || !reflect.DeepEqual(whole, made) || !reflect.DeepEqual(before, lists(made)) {
 			t.Errorf("%s was changed, or what there is", docWords(whole))
 		}
 	}
+}
+
+func TestWhatIsReckonedIsNotChanged(t *testing.T) {
+	checkNotChangedBy(t, 16, func(s impl.Schema, d impl.Doc) { impl.BoundOf(s, d) })
 }
 
 func TestBoundsAreToldTheSameAgain(t *testing.T) {

@@ -855,25 +855,32 @@ func TestTreesOf2000NodesAreToldInTime(t *testing.T) {
 	})
 }
 
-// A line through all Frags is as deep as may be; no Answer has so long a Path.
+// ofItself has an object in each field, but for one.
+const ofItself = "obj T one:T! may:T list:T[1] l:S\nleaf S 5\n"
+
+// deepAndWide are two of 60 Sels, each of which asks for this field: a line through all Frags, as deep as may be, and such side by side.
+func deepAndWide(name string) []impl.Doc {
+	keys, names := letters(10), letters(impl.MaxFrags)
+	line := func(bottom impl.Sel) []impl.Sel {
+		return nestedIn(5, bottom, func(inner ...impl.Sel) impl.Sel { return keyed("abcdefgh", name, -1, inner...) })
+	}
+	deep := doc(line(spread(names[0])))
+	for at, name := range names {
+		bottom := field("l")
+		if at+1 < len(names) {
+			bottom = spread(names[at+1])
+		}
+		deep.Frags = append(deep.Frags, frag(name, "T", line(bottom)...))
+	}
+	wide := doc(repeated(10, func(at int) impl.Sel { return keyed(keys[at], name, -1, line(field("l"))[0].Sels...) }))
+	return []impl.Doc{deep, wide}
+}
+
+// No Answer has so long a Path as there are in the deepest.
 func TestWhatIs60SelsAnd6DeepIsToldInTime(t *testing.T) {
-	s := asks(t, "obj T one:T! may:T list:T[1] l:S\nleaf S 5\n")
-	keys := letters(10)
-	names := letters(impl.MaxFrags)
+	s := asks(t, ofItself)
 	for _, name := range []string{"one", "may", "list"} {
-		line := func(bottom impl.Sel) []impl.Sel {
-			return nestedIn(5, bottom, func(inner ...impl.Sel) impl.Sel { return keyed("abcdefgh", name, -1, inner...) })
-		}
-		deep := doc(line(spread(names[0])))
-		for at, name := range names {
-			bottom := field("l")
-			if at+1 < len(names) {
-				bottom = spread(names[at+1])
-			}
-			deep.Frags = append(deep.Frags, frag(name, "T", line(bottom)...))
-		}
-		wide := doc(repeated(10, func(at int) impl.Sel { return keyed(keys[at], name, -1, line(field("l"))[0].Sels...) }))
-		for _, d := range []impl.Doc{deep, wide} {
+		for _, d := range deepAndWide(name) {
 			inTime(t, name, func() {
 				b := impl.BoundOf(s, d)
 				got := checkTellable(t, name, s, d, nil)
@@ -883,7 +890,7 @@ func TestWhatIs60SelsAnd6DeepIsToldInTime(t *testing.T) {
 				step := map[string]string{"one": "abcdefgh", "may": "abcdefgh", "list": "abcdefgh.0"}[name]
 				for count := 1; count*(len(step)+1)-1 <= 100; count++ {
 					checkTellable(t, name, s, d, answers(failAt(strings.Join(slices.Repeat([]string{step}, count), "."))))
-					checkTellable(t, name, s, d, answers(nullAt(keys[0]+strings.Repeat("."+step, count-1))))
+					checkTellable(t, name, s, d, answers(nullAt(letters(1)[0]+strings.Repeat("."+step, count-1))))
 				}
 			})
 		}
@@ -901,9 +908,12 @@ func TestWhatIs60SelsAnd6DeepIsToldInTime(t *testing.T) {
 	})
 }
 
-// What is spread again in one object is asked for once, in however many ways.
-func TestWhatIsSpreadMostOftenIsToldInTime(t *testing.T) {
-	s := asks(t, "obj T one:T in:T[3] l:S\nleaf S 5\n")
+// ofThree has three of itself in a List.
+const ofThree = "obj T one:T in:T[3] l:S\nleaf S 5\n"
+
+// mostSpread are questions that come to the same: the first asks once, the others spread it in as many ways as there may be.
+func mostSpread() map[string][]impl.Doc {
+	all := map[string][]impl.Doc{}
 	line := field("l")
 	for what, last := range map[string][]impl.Sel{
 		"leaves":          repeated(10, func(int) impl.Sel { return line }),
@@ -911,11 +921,22 @@ func TestWhatIsSpreadMostOftenIsToldInTime(t *testing.T) {
 		"fields of two":   repeated(2, func(int) impl.Sel { return field("in", field("one", line), line) }),
 		"5 deep":          nestedIn(4, line, func(inner ...impl.Sel) impl.Sel { return field("in", inner...) }),
 	} {
-		want := checkTellable(t, what, s, doc(last), nil)
-		for _, d := range []impl.Doc{mostWays(10, last...), eachOther(last...)} {
+		all[what] = []impl.Doc{doc(last), mostWays(10, last...), eachOther(last...)}
+		for i, d := range all[what] {
 			if countDoc(d) > impl.MaxSels {
-				d.Sels = d.Sels[:4]
+				all[what][i].Sels = d.Sels[:4]
 			}
+		}
+	}
+	return all
+}
+
+// What is spread again in one object is asked for once, in however many ways.
+func TestWhatIsSpreadMostOftenIsToldInTime(t *testing.T) {
+	s := asks(t, ofThree)
+	for what, all := range mostSpread() {
+		want := checkTellable(t, what, s, all[0], nil)
+		for _, d := range all[1:] {
 			inTime(t, what, func() {
 				for range 50 {
 					impl.Exec(s, d, nil)
@@ -925,7 +946,7 @@ func TestWhatIsSpreadMostOftenIsToldInTime(t *testing.T) {
 				}
 				// In each of several objects.
 				d.Sels = sels(field("in", d.Sels[0], spread(d.Frags[1].Name)))
-				if got, want := impl.Exec(s, d, nil), impl.Exec(s, doc(sels(field("in", last...))), nil); !sameTold(got, want) {
+				if got, want := impl.Exec(s, d, nil), impl.Exec(s, doc(sels(field("in", all[0].Sels...))), nil); !sameTold(got, want) {
 					t.Errorf("%s, in a List: Exec %s is %+v, want %+v", what, docWords(d), got, want)
 				}
 			})
@@ -1207,17 +1228,24 @@ func TestWhatIsToldOfAQuestionSharesNothing(t *testing.T) {
 	checkTellable(t, "told again", s, d, l)
 }
 
-func TestWhatIsToldHoldsNothingOfAQuestion(t *testing.T) {
-	s, d, l := toldOfMany(t)
-	var handed, told []string
+// textsOf are all texts of a question, but for those of its Frags, and of what there is.
+func textsOf(s impl.Schema, d impl.Doc) []string {
+	var all []string
 	for _, of := range s.Types {
-		handed = append(handed, typeTexts(of)...)
+		all = append(all, typeTexts(of)...)
 	}
 	for _, list := range lists(d) {
 		for _, sel := range list {
-			handed = append(handed, sel.Key, sel.Name)
+			all = append(all, sel.Key, sel.Name)
 		}
 	}
+	return all
+}
+
+func TestWhatIsToldHoldsNothingOfAQuestion(t *testing.T) {
+	s, d, l := toldOfMany(t)
+	var told []string
+	handed := textsOf(s, d)
 	for i := range l {
 		l[i].Path, l[i].Text = strings.Clone(l[i].Path), strings.Clone(l[i].Text)
 		handed = append(handed, l[i].Path, l[i].Text)

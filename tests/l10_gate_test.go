@@ -945,19 +945,10 @@ func TestTheGreatestRequestsAreAnsweredInTime(t *testing.T) {
 
 // What is spread in many ways comes back in time, and is told as if it were spread once.
 func TestWhatIsSpreadMostOftenPassesInTime(t *testing.T) {
-	s := asks(t, "obj T one:T in:T[3] l:S\nleaf S 5\n")
-	line := field("l")
-	for what, last := range map[string][]impl.Sel{
-		"leaves":          repeated(10, func(int) impl.Sel { return line }),
-		"a field of many": sels(field("in", repeated(9, func(int) impl.Sel { return line })...)),
-		"fields of two":   repeated(2, func(int) impl.Sel { return field("in", field("one", line), line) }),
-		"5 deep":          nestedIn(4, line, func(inner ...impl.Sel) impl.Sel { return field("in", inner...) }),
-	} {
-		want := checkGate(t, what, asking(schemaWords(s), docWords(doc(last))))
-		for _, d := range []impl.Doc{mostWays(10, last...), eachOther(last...)} {
-			if countDoc(d) > impl.MaxSels {
-				d.Sels = d.Sels[:4]
-			}
+	s := asks(t, ofThree)
+	for what, all := range mostSpread() {
+		want := checkGate(t, what, asking(schemaWords(s), docWords(all[0])))
+		for _, d := range all[1:] {
 			inTime(t, what, func() {
 				r := asking(schemaWords(s), docWords(d))
 				for range 50 {
